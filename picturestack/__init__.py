@@ -1,0 +1,1 @@
+"""Pictures laid on one another."""
