@@ -11,6 +11,12 @@ TURN_UNIT = 16384
 TURN_MOST = 65536
 MOVE_MOST = 8192
 SIDE_MOST = 64
+PLACES_MOST = 4096
+PICTURES_MOST = 16
+LEAST_MOST = 65535
+# How far off is told in quarters, so that no fraction is needed.
+QUARTERS = 4
+QUARTERS_MOST = 256
 
 
 # Words hold no sign: numbers below 0 are handed in modulo 2^32.
@@ -39,6 +45,15 @@ def all_sides(numbers):
 # Both are doubled, so that half of the divisor is whole and of two as near the greater comes out.
 def rounded(dividend, divisor):
     return (2 * dividend + divisor) // (2 * divisor)
+
+
+# Each list stands behind its length: so where the next one begins can be read off the answer alone.
+def told(lists):
+    answer = [0]
+    for numbers in lists:
+        answer.append(len(numbers))
+        answer.extend(numbers)
+    return answer
 
 
 def middle(index):
@@ -96,9 +111,7 @@ def sm_place(a, b, c, d, u1, v1, w, h, f, bad):
     if not (all_turns(turns) and all_moves(moves) and all_sides([u1, v1, w, h])):
         return [REFUSED]
     found = placed(turns, moves, u1, v1, w, h, f, bad)
-    numbers = [pair[0] for pair in found]
-    covers = [pair[1] for pair in found]
-    return [0, len(numbers)] + numbers + [len(covers)] + covers
+    return told([[number for number, cover in found], [cover for number, cover in found]])
 
 
 def sm_move(dx, dy, w, h, f):
@@ -114,3 +127,52 @@ def sm_move(dx, dy, w, h, f):
             else:
                 answer.append(0)
     return answer
+
+
+# How many pictures there are is told by the length alone: compared with n and not divided by it, since n may be 0.
+def is_stack(n, x):
+    return 1 <= n <= PLACES_MOST and n <= len(x) <= PICTURES_MOST * n
+
+
+# The pictures lie one behind the other: the same place comes again n numbers later.
+def at_place(place, n, x):
+    return x[place::n]
+
+
+# Of two in the middle the lower, and not their mean: so it is always one of the numbers.
+def middle_one(numbers):
+    return sorted(numbers)[(len(numbers) - 1) // 2]
+
+
+# Each sample is a number with its cover. With alike numbers the usual distance is 0, and would refuse the least noise.
+def without_far_ones(samples, q):
+    if len(samples) == 0:
+        return []
+    centre = middle_one([number for number, cover in samples])
+    usual = max(1, middle_one([abs(number - centre) for number, cover in samples]))
+    return [(number, cover) for number, cover in samples if QUARTERS * abs(number - centre) <= q * usual]
+
+
+# A cover of 0 is never taken, not even with least 0: nothing was seen there.
+def summed(numbers, covers, least, q):
+    samples = [(number, cover) for number, cover in zip(numbers, covers) if cover >= max(1, least)]
+    near = without_far_ones(samples, q)
+    together = sum([cover for number, cover in near])
+    if together == 0:
+        return (0, 0, 0)
+    total = sum([number * cover for number, cover in near])
+    return (rounded(total, together), len(near), together)
+
+
+def sm_stack(n, least, q, x, cover):
+    if not (is_stack(n, x) and least <= LEAST_MOST and q <= QUARTERS_MOST):
+        return [REFUSED]
+    found = [summed(at_place(place, n, x), at_place(place, n, cover), least, q) for place in range(n)]
+    return told([[one[0] for one in found], [one[1] for one in found], [one[2] for one in found]])
+
+
+def sm_ends(n, x):
+    if not is_stack(n, x):
+        return [REFUSED]
+    stacks = [at_place(place, n, x) for place in range(n)]
+    return told([[min(numbers) for numbers in stacks], [max(numbers) for numbers in stacks]])

@@ -45,7 +45,12 @@ def assert_same_twice(case, call, numbers, lists):
     return kept
 
 
-def assert_range(case, call, base, name, least, most, lists_of):
+def told(*lists):
+    """An answer: 0, and each list behind how many numbers it has."""
+    return [0] + [number for values in lists for number in [len(values), *values]]
+
+
+def assert_range(case, call, base, name, least, most, lists_of, longest=5000):
     """The ends of a number's range are taken; what is just beyond is refused, with lists and without."""
     for value in (least, most):
         numbers = dict(base, **{name: word(value)})
@@ -57,5 +62,5 @@ def assert_range(case, call, base, name, least, most, lists_of):
         full = lists_of(numbers)
         empty = {key: [] for key in full}
         case.assertEqual(call(**numbers, **empty), [-2], (name, value, "empty lists"))
-        if all(len(values) <= 5000 for values in full.values()):
+        if all(len(values) <= longest for values in full.values()):
             case.assertEqual(call(**numbers, **full), [-2], (name, value, "full lists"))

@@ -13,6 +13,8 @@ PACKAGE = pathlib.Path(pictures.__file__).parent
 ARGUMENTS = {
     "sm_place": ["a", "b", "c", "d", "u1", "v1", "w", "h", "f", "bad"],
     "sm_move": ["dx", "dy", "w", "h", "f"],
+    "sm_stack": ["n", "least", "q", "x", "cover"],
+    "sm_ends": ["n", "x"],
 }
 
 
@@ -34,6 +36,10 @@ class Interface(unittest.TestCase):
             pictures.sm_place(16384, 0, 0, 0, 1, 1, 1, 1, [5], [0])
             pictures.sm_move(0, 0, 1, 1, [5])
             pictures.sm_move(0, 0, 0, 1, [])
+            pictures.sm_stack(1, 0, 4, [5], [6])
+            pictures.sm_stack(0, 0, 4, [], [])
+            pictures.sm_ends(1, [5])
+            pictures.sm_ends(0, [])
         self.assertEqual(out.getvalue() + err.getvalue(), "")
 
 
