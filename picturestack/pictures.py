@@ -17,6 +17,8 @@ LEAST_MOST = 65535
 # How far off is told in quarters, so that no fraction is needed.
 QUARTERS = 4
 QUARTERS_MOST = 256
+FINER_MOST = 4
+SQUARE_MOST = 64
 
 
 # Words hold no sign: numbers below 0 are handed in modulo 2^32.
@@ -43,7 +45,10 @@ def all_sides(numbers):
 
 
 # Both are doubled, so that half of the divisor is whole and of two as near the greater comes out.
+# Where nothing was seen there is nothing to divide by, and each such number is to be 0.
 def rounded(dividend, divisor):
+    if divisor == 0:
+        return 0
     return (2 * dividend + divisor) // (2 * divisor)
 
 
@@ -87,8 +92,6 @@ def between_four(x, y, w, h, f, bad):
         if in_picture(column, row, w, h) and bad[row * w + column] == 0:
             total += f[row * w + column] * part
             cover += part
-    if cover == 0:
-        return (0, 0)
     return (rounded(total, cover), cover)
 
 
@@ -158,8 +161,6 @@ def summed(numbers, covers, least, q):
     samples = [(number, cover) for number, cover in zip(numbers, covers) if cover >= max(1, least)]
     near = without_far_ones(samples, q)
     together = sum([cover for number, cover in near])
-    if together == 0:
-        return (0, 0, 0)
     total = sum([number * cover for number, cover in near])
     return (rounded(total, together), len(near), together)
 
@@ -176,3 +177,52 @@ def sm_ends(n, x):
         return [REFUSED]
     stacks = [at_place(place, n, x) for place in range(n)]
     return told([[min(numbers) for numbers in stacks], [max(numbers) for numbers in stacks]])
+
+
+def shared_width(start, width, place):
+    first = max(start, STEPS * place)
+    end = min(start + width, STEPS * (place + 1))
+    return max(0, end - first)
+
+
+# Along one side alone: squares stand upright, so what two of them share is a width times a height.
+# Of each new place, the old ones that reach it, each with the width that both share.
+def reaching(s, p, move, old_side, new_side):
+    width = p * s
+    starts = [middle(old) * s + move - width // 2 for old in range(old_side)]
+    found = []
+    for new in range(new_side):
+        shares = [(old, shared_width(start, width, new)) for old, start in enumerate(starts)]
+        found.append([(old, share) for old, share in shares if share > 0])
+    return found
+
+
+def gathered(columns, rows, w, f):
+    total = 0
+    much = 0
+    for row, height in rows:
+        for column, width in columns:
+            total += f[row * w + column] * width * height
+            much += width * height
+    return (total, much)
+
+
+def sm_drop(s, p, dx, dy, u1, v1, w, h, f):
+    right = signed(dx)
+    down = signed(dy)
+    fits = 1 <= s <= FINER_MOST and 1 <= p <= SQUARE_MOST
+    if not (fits and all_moves([right, down]) and all_sides([u1, v1, w, h])):
+        return [REFUSED]
+    across = reaching(s, p, right, w, u1)
+    found = []
+    for rows in reaching(s, p, down, h, v1):
+        for columns in across:
+            found.append(gathered(columns, rows, w, f))
+    return told([[total for total, much in found], [much for total, much in found]])
+
+
+# A word holds what is answered: a quotient may be greater where much is small.
+def sm_finish(sums, much):
+    if len(sums) > PLACES_MOST:
+        return [REFUSED]
+    return [0] + [rounded(total, part) % WORD for total, part in zip(sums, much)]

@@ -26,6 +26,16 @@ def spots(count, every=5):
     return [(index * 37) % 256 if index % every == 2 else 0 for index in range(count)]
 
 
+def places_of(numbers):
+    """How many places w and h tell; lists longer than 5000 are not handed in, one more is enough to tell."""
+    return min(numbers["w"] * numbers["h"], 5001)
+
+
+def picture_of(numbers):
+    """The list f that goes with these numbers."""
+    return {"f": pattern(places_of(numbers))}
+
+
 def assert_plain_answer(case, answer):
     """The answer is a list of whole numbers, none of them True or False."""
     case.assertIs(type(answer), list)
@@ -50,7 +60,7 @@ def told(*lists):
     return [0] + [number for values in lists for number in [len(values), *values]]
 
 
-def assert_range(case, call, base, name, least, most, lists_of, longest=5000):
+def assert_range(case, call, base, name, least, most, lists_of, longest):
     """The ends of a number's range are taken; what is just beyond is refused, with lists and without."""
     for value in (least, most):
         numbers = dict(base, **{name: word(value)})
@@ -64,3 +74,10 @@ def assert_range(case, call, base, name, least, most, lists_of, longest=5000):
         case.assertEqual(call(**numbers, **empty), [-2], (name, value, "empty lists"))
         if all(len(values) <= longest for values in full.values()):
             case.assertEqual(call(**numbers, **full), [-2], (name, value, "full lists"))
+
+
+def assert_ranges(case, call, base, ranges, lists_of, longest=5000):
+    """Each number of a call in turn, by its name, the others as in base."""
+    for name, (least, most) in ranges.items():
+        with case.subTest(name=name):
+            assert_range(case, call, base, name, least, most, lists_of, longest)

@@ -3,7 +3,7 @@
 import unittest
 
 from picturestack.pictures import sm_ends
-from tests.support import assert_plain_answer, assert_range, assert_same_twice, pattern, told
+from tests.support import assert_plain_answer, assert_ranges, assert_same_twice, pattern, told
 
 
 def ends_by_pictures(n, x):
@@ -73,7 +73,7 @@ class WrongInputs(unittest.TestCase):
         return {"x": pattern(min(14 * numbers["n"], 61001))}
 
     def test_the_range_of_n(self):
-        assert_range(self, sm_ends, {"n": 3}, "n", 1, 4096, self.lists_of, 61000)
+        assert_ranges(self, sm_ends, {"n": 3}, {"n": (1, 4096)}, self.lists_of, 61000)
 
     def test_how_many_pictures(self):
         for n in (1, 3, 3588):

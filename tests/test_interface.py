@@ -15,6 +15,8 @@ ARGUMENTS = {
     "sm_move": ["dx", "dy", "w", "h", "f"],
     "sm_stack": ["n", "least", "q", "x", "cover"],
     "sm_ends": ["n", "x"],
+    "sm_drop": ["s", "p", "dx", "dy", "u1", "v1", "w", "h", "f"],
+    "sm_finish": ["sums", "much"],
 }
 
 
@@ -40,6 +42,10 @@ class Interface(unittest.TestCase):
             pictures.sm_stack(0, 0, 4, [], [])
             pictures.sm_ends(1, [5])
             pictures.sm_ends(0, [])
+            pictures.sm_drop(2, 32, 0, 0, 2, 2, 1, 1, [5])
+            pictures.sm_drop(0, 32, 0, 0, 2, 2, 1, 1, [5])
+            pictures.sm_finish([5], [2])
+            pictures.sm_finish([5] * 4097, [2] * 4097)
         self.assertEqual(out.getvalue() + err.getvalue(), "")
 
 

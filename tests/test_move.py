@@ -3,7 +3,7 @@
 import unittest
 
 from picturestack.pictures import sm_move
-from tests.support import assert_plain_answer, assert_range, assert_same_twice, pattern, word
+from tests.support import assert_plain_answer, assert_ranges, assert_same_twice, pattern, picture_of, word
 
 SIX = [1, 2, 3, 4, 5, 6]
 
@@ -83,15 +83,8 @@ class WrongInputs(unittest.TestCase):
     BASE = {"dx": 1, "dy": 1, "w": 4, "h": 2}
     RANGES = {"dx": (-8192, 8192), "dy": (-8192, 8192), "w": (1, 64), "h": (1, 64)}
 
-    @staticmethod
-    def lists_of(numbers):
-        # Lists longer than 5000 are not handed in: one number more is enough to tell.
-        return {"f": pattern(min(numbers["w"] * numbers["h"], 5001))}
-
     def test_each_range(self):
-        for name, (least, most) in self.RANGES.items():
-            with self.subTest(name=name):
-                assert_range(self, sm_move, self.BASE, name, least, most, self.lists_of)
+        assert_ranges(self, sm_move, self.BASE, self.RANGES, picture_of)
 
     def test_pictures_without_places(self):
         for w, h in [(0, 2), (2, 0), (0, 0)]:

@@ -5,7 +5,7 @@ from fractions import Fraction
 from math import floor
 
 from picturestack.pictures import sm_place
-from tests.support import assert_plain_answer, assert_range, assert_same_twice, pattern, spots, told, word
+from tests.support import assert_plain_answer, assert_ranges, assert_same_twice, pattern, places_of, spots, told, word
 
 ONE = 16384
 
@@ -169,10 +169,12 @@ class Edges(unittest.TestCase):
             self.assertEqual(place(ONE, 0, 32, 32, 1, 1, 2, 2, f, [0, 0, 0, value]), told([200], [3072]))
             self.assertEqual(place(ONE, 0, 32, 32, 1, 1, 2, 2, f, [value, 0, 0, 0]), told([300], [3072]))
             self.assertEqual(place(ONE, 0, 32, 32, 1, 1, 2, 2, f, [value, 0, value, 0]), told([300], [2048]))
-        self.assertEqual(place(ONE, 0, 0, 0, 2, 2, 2, 2, f, [0, 1, 0, 0]), told([100, 0, 300, 400], [4096, 0, 4096, 4096]))
+        got = place(ONE, 0, 0, 0, 2, 2, 2, 2, f, [0, 1, 0, 0])
+        self.assertEqual(got, told([100, 0, 300, 400], [4096, 0, 4096, 4096]))
 
     def test_all_places_bad(self):
-        self.assertEqual(place(ONE, 0, 10, 20, 2, 2, 2, 2, [100, 200, 300, 400], [1, 255, 7, 64]), told([0] * 4, [0] * 4))
+        got = place(ONE, 0, 10, 20, 2, 2, 2, 2, [100, 200, 300, 400], [1, 255, 7, 64])
+        self.assertEqual(got, told([0] * 4, [0] * 4))
 
     def test_numbers_of_0_are_covered_all_the_same(self):
         self.assertEqual(place(ONE, 0, 0, 0, 2, 1, 2, 1, [0, 0]), told([0, 0], [4096, 4096]))
@@ -223,14 +225,10 @@ class WrongInputs(unittest.TestCase):
 
     @staticmethod
     def lists_of(numbers):
-        # Lists longer than 5000 are not handed in: one number more is enough to tell.
-        count = min(numbers["w"] * numbers["h"], 5001)
-        return {"f": pattern(count), "bad": spots(count)}
+        return {"f": pattern(places_of(numbers)), "bad": spots(places_of(numbers))}
 
     def test_each_range(self):
-        for name, (least, most) in self.RANGES.items():
-            with self.subTest(name=name):
-                assert_range(self, sm_place, self.BASE, name, least, most, self.lists_of)
+        assert_ranges(self, sm_place, self.BASE, self.RANGES, self.lists_of)
 
     def test_pictures_without_places(self):
         for name in ("u1", "v1", "w", "h"):

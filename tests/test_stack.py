@@ -6,7 +6,7 @@ from math import floor
 from statistics import median_low
 
 from picturestack.pictures import sm_stack
-from tests.support import assert_plain_answer, assert_range, assert_same_twice, pattern, told
+from tests.support import assert_plain_answer, assert_ranges, assert_same_twice, pattern, told
 
 # The greatest q: nothing is too far off up to 64 times the usual distance.
 WIDE = 256
@@ -249,9 +249,7 @@ class WrongInputs(unittest.TestCase):
         return {"x": pattern(count), "cover": pattern(count, 31)}
 
     def test_each_range(self):
-        for name, (least, most) in self.RANGES.items():
-            with self.subTest(name=name):
-                assert_range(self, sm_stack, self.BASE, name, least, most, self.lists_of, 61000)
+        assert_ranges(self, sm_stack, self.BASE, self.RANGES, self.lists_of, 61000)
 
     def test_how_many_pictures(self):
         for n in (1, 3, 3588):
