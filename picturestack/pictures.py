@@ -19,6 +19,11 @@ QUARTERS = 4
 QUARTERS_MOST = 256
 FINER_MOST = 4
 SQUARE_MOST = 64
+NUMBER_MOST = 65535
+# A gain of this size changes nothing: gains are told in parts of it, so that no fraction is needed.
+GAIN_UNIT = 4096
+GAIN_MOST = 16777216
+OFFSET_MOST = 65536
 
 
 # Words hold no sign: numbers below 0 are handed in modulo 2^32.
@@ -221,8 +226,32 @@ def sm_drop(s, p, dx, dy, u1, v1, w, h, f):
     return told([[total for total, much in found], [much for total, much in found]])
 
 
+# How many numbers there are is told by the length alone; none at all is fine.
+def too_long(numbers):
+    return len(numbers) > PLACES_MOST
+
+
 # A word holds what is answered: a quotient may be greater where much is small.
 def sm_finish(sums, much):
-    if len(sums) > PLACES_MOST:
+    if too_long(sums):
         return [REFUSED]
     return [0] + [rounded(total, part) % WORD for total, part in zip(sums, much)]
+
+
+# Held at the ends and not taken modulo: the brightest places must not come out dark.
+def levelled(number, gain, offset):
+    return max(0, min(NUMBER_MOST, rounded(number * gain, GAIN_UNIT) + offset))
+
+
+def sm_level(g, o, l):
+    offset = signed(o)
+    if g > GAIN_MOST or not -OFFSET_MOST <= offset <= OFFSET_MOST or too_long(l):
+        return [REFUSED]
+    return [0] + [levelled(number, g, offset) for number in l]
+
+
+# A word holds what is answered: the gain may be greater where b is dark.
+def sm_gain(a, b):
+    if too_long(a):
+        return [REFUSED]
+    return [0, rounded(GAIN_UNIT * sum(a), sum(b)) % WORD]

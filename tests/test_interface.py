@@ -17,6 +17,8 @@ ARGUMENTS = {
     "sm_ends": ["n", "x"],
     "sm_drop": ["s", "p", "dx", "dy", "u1", "v1", "w", "h", "f"],
     "sm_finish": ["sums", "much"],
+    "sm_level": ["g", "o", "l"],
+    "sm_gain": ["a", "b"],
 }
 
 
@@ -46,6 +48,10 @@ class Interface(unittest.TestCase):
             pictures.sm_drop(0, 32, 0, 0, 2, 2, 1, 1, [5])
             pictures.sm_finish([5], [2])
             pictures.sm_finish([5] * 4097, [2] * 4097)
+            pictures.sm_level(4096, 0, [5])
+            pictures.sm_level(16777217, 0, [5])
+            pictures.sm_gain([5], [2])
+            pictures.sm_gain([5] * 4097, [2] * 4097)
         self.assertEqual(out.getvalue() + err.getvalue(), "")
 
 
