@@ -245,7 +245,7 @@ def levelled(number, gain, offset):
 
 def sm_level(g, o, l):
     offset = signed(o)
-    if g > GAIN_MOST or not -OFFSET_MOST <= offset <= OFFSET_MOST or too_long(l):
+    if g > GAIN_MOST or abs(offset) > OFFSET_MOST or too_long(l):
         return [REFUSED]
     return [0] + [levelled(number, g, offset) for number in l]
 
@@ -255,3 +255,10 @@ def sm_gain(a, b):
     if too_long(a):
         return [REFUSED]
     return [0, rounded(GAIN_UNIT * sum(a), sum(b)) % WORD]
+
+
+# Words hold no sign: what is below 0 is told modulo 2^32.
+def sm_less(a, b):
+    if too_long(a):
+        return [REFUSED]
+    return [0] + [(number - other) % WORD for number, other in zip(a, b)]

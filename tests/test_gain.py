@@ -35,7 +35,8 @@ class Ordinary(unittest.TestCase):
         for count in (1, 2, 5, 40, 1000):
             for step in (1, 31, 613):
                 a = pattern(count)
-                for b in (pattern(count, step), [number % 3 for number in pattern(count, step)], [1] + [0] * (count - 1)):
+                other = pattern(count, step)
+                for b in (other, [number % 3 for number in other], [1] + [0] * (count - 1)):
                     self.assertEqual(sm_gain(a, b), gain_by_fractions(a, b))
                     self.assertEqual(sm_gain(b, a), gain_by_fractions(b, a))
 

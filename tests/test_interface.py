@@ -19,6 +19,7 @@ ARGUMENTS = {
     "sm_finish": ["sums", "much"],
     "sm_level": ["g", "o", "l"],
     "sm_gain": ["a", "b"],
+    "sm_less": ["a", "b"],
 }
 
 
@@ -28,6 +29,9 @@ class Interface(unittest.TestCase):
             parameters = inspect.signature(getattr(pictures, name)).parameters.values()
             self.assertEqual([parameter.name for parameter in parameters], arguments)
             self.assertTrue(all(parameter.default is parameter.empty for parameter in parameters))
+
+    def test_no_other_calls(self):
+        self.assertEqual(sorted(name for name in vars(pictures) if name.startswith("sm_")), sorted(ARGUMENTS))
 
     def test_nothing_is_imported(self):
         for path in sorted(PACKAGE.glob("*.py")):
@@ -52,6 +56,8 @@ class Interface(unittest.TestCase):
             pictures.sm_level(16777217, 0, [5])
             pictures.sm_gain([5], [2])
             pictures.sm_gain([5] * 4097, [2] * 4097)
+            pictures.sm_less([5], [2])
+            pictures.sm_less([5] * 4097, [2] * 4097)
         self.assertEqual(out.getvalue() + err.getvalue(), "")
 
 
